@@ -52,17 +52,24 @@ func hands() [][]tile {
 	}
 	seed := 7
 	for size := 1; size <= 55; size += 3 {
-		left := slices.Clone(all)
 		var hand []tile
-		for range size {
-			seed = (seed*163 + 229) % 10007
-			at := seed % len(left)
-			hand = append(hand, left[at])
-			left = slices.Delete(left, at, at+1)
-		}
+		hand, seed = drawn(all, size, seed)
 		list = append(list, hand)
 	}
 	return list
+}
+
+// drawn returns a hand of size tiles, or of all if there are fewer, drawn from a list by a seed, and the seed for the next hand.
+func drawn(from []tile, size int, seed int) ([]tile, int) {
+	left := slices.Clone(from)
+	var hand []tile
+	for len(hand) < size && len(left) > 0 {
+		seed = (seed*163 + 229) % 10007
+		at := seed % len(left)
+		hand = append(hand, left[at])
+		left = slices.Delete(left, at, at+1)
+	}
+	return hand, seed
 }
 
 // badHands returns lists that are no hands.
