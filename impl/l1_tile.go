@@ -15,7 +15,7 @@ type Tile struct {
 	High int
 }
 
-// noTilesText is the HandText of the hand without tiles.
+// noTilesText stands for no tiles, in texts of hands and of spreads.
 const noTilesText = "-"
 
 // maxHandText is the length of the HandText of MaxTiles tiles: two digits each, and the commas between them.
@@ -232,7 +232,7 @@ func HandText(hand []Tile) (string, bool) {
 	}
 	texts := make([]string, len(hand))
 	for i, t := range hand {
-		texts[i] = strconv.Itoa(t.Low) + strconv.Itoa(t.High)
+		texts[i] = tileText(t)
 	}
 	return strings.Join(texts, ","), true
 }
@@ -270,6 +270,11 @@ func parseTile(text string) (Tile, bool) {
 		return Tile{}, false
 	}
 	return t, true
+}
+
+// tileText returns both numbers of a tile as digits, the lesser one first.
+func tileText(t Tile) string {
+	return strconv.Itoa(t.Low) + strconv.Itoa(t.High)
 }
 
 // isNumber reports whether n, which may be any, is in 0..MaxPips.
