@@ -255,20 +255,26 @@ func TestPromise11ListsAreApart(t *testing.T) {
 		func() ([][]int, bool) { return impl.AllChains(manyChains()) },
 		func() ([][]int, bool) { return impl.GroupsOf(hand) },
 	} {
-		want, ok := f()
-		got, _ := f()
-		if !ok || len(want) < 2 {
-			t.Error("too few lists:", want, ok)
-		}
-		for i := range got {
-			overwriteNumbers(got[i])
-			for j := i + 1; j < len(got); j++ {
-				wantNumbers(t, "a list beside one written into", got[j], ok, want[j])
-			}
-		}
-		again, ok := f()
-		wantLists(t, "a call made again", again, ok, want)
+		wantListsApart(t, f, 2)
 	}
+}
+
+// wantListsApart checks that no two lists of a result, which has at least so many, share memory.
+func wantListsApart(t *testing.T, f func() ([][]int, bool), least int) {
+	t.Helper()
+	want, ok := f()
+	got, _ := f()
+	if !ok || len(want) < least {
+		t.Error("too few lists:", want, ok)
+	}
+	for i := range got {
+		overwriteNumbers(got[i])
+		for j := i + 1; j < len(got); j++ {
+			wantNumbers(t, "a list beside one written into", got[j], ok, want[j])
+		}
+	}
+	again, ok := f()
+	wantLists(t, "a call made again", again, ok, want)
 }
 
 func TestPromise11HugeChains(t *testing.T) {
